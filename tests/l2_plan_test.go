@@ -445,6 +445,22 @@ func TestPlaceGreatest(t *testing.T) {
 	}
 }
 
+// spoilRows writes over rows, as far as their memory goes; none may change by another's.
+func spoilRows(t *testing.T, rows [][]int) {
+	t.Helper()
+	for i, row := range rows {
+		whole := row[:cap(row)]
+		for k := range whole {
+			whole[k] = -7
+		}
+		for _, other := range rows[i+1:] {
+			if slices.Contains(other, -7) {
+				t.Error("two rows share memory")
+			}
+		}
+	}
+}
+
 // TestPlansOfTheirOwn: nothing is written into an argument, and an answer shares nothing with one, nor do its rows with one another.
 func TestPlansOfTheirOwn(t *testing.T) {
 	l, p, order := upAndDown(), plan([]int{6, 18}, []int{4, 19}), []int{1, 0, 0, 1}
@@ -459,18 +475,7 @@ func TestPlansOfTheirOwn(t *testing.T) {
 		return impl.Place(l, order)
 	}
 	first := use()
-	for i := range first.Plan.Starts {
-		row := first.Plan.Starts[i]
-		whole := row[:cap(row)]
-		for k := range whole {
-			whole[k] = -7
-		}
-		for j, other := range first.Plan.Starts {
-			if j > i && slices.Contains(other, -7) {
-				t.Error("two rows share memory")
-			}
-		}
-	}
+	spoilRows(t, first.Plan.Starts)
 	if second := use(); !sameRows(second.Plan.Starts, [][]int{{6, 18}, {4, 19}}) {
 		t.Errorf("another answer: %+v", second)
 	}

@@ -294,6 +294,14 @@ func (d *dice) shaken(p impl.Plan) impl.Plan {
 	return out
 }
 
+func copied(p impl.Plan) impl.Plan {
+	var out impl.Plan
+	for _, row := range p.Starts {
+		out.Starts = append(out.Starts, slices.Clone(row))
+	}
+	return out
+}
+
 // TestCheckByWords holds Check, Arrives and Cost against their words, on plans that nearly can be.
 func TestCheckByWords(t *testing.T) {
 	d := dice(2)
@@ -305,10 +313,7 @@ func TestCheckByWords(t *testing.T) {
 			continue
 		}
 		p := d.shaken(placed.Plan)
-		asWas := impl.Plan{Starts: slices.Clone(p.Starts)}
-		for i := range asWas.Starts {
-			asWas.Starts[i] = slices.Clone(p.Starts[i])
-		}
+		asWas := copied(p)
 		got, want := impl.Check(l, p), wordsCheck(l, p)
 		if got != want {
 			t.Fatalf("%+v, %v: %+v, want %+v", l, p, got, want)
